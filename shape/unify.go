@@ -12,7 +12,8 @@ func Unify(l []Bind, a, b Shape) ([]Bind, bool) {
 	}
 	u := unifier{holes: map[int]int{}}
 	for _, bind := range l {
-		u.holes[bind.N] = u.enter(bind.S)
+		stands := u.enter(bind.S)
+		u.holes[bind.N] = stands
 	}
 	if !u.join(u.enter(a), u.enter(b)) {
 		return nil, false
@@ -56,8 +57,9 @@ func (u *unifier) enter(s Shape) int {
 		case Hole:
 			u.meet(i, x.N)
 		case Fun:
-			u.nodes[i].kids = u.add(&x.Kids[0])
+			kids := u.add(&x.Kids[0]) // on a line of its own: add may put another list into nodes, and Go leaves open which one a line with both would write into
 			u.add(&x.Kids[1])
+			u.nodes[i].kids = kids
 		}
 	}
 	return first
